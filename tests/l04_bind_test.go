@@ -604,38 +604,95 @@ func TestUnifyComesToAnEnd(t *testing.T) {
 	wantNotUnified(t, doubling, varTerm(60), varTerm(60))
 }
 
+// A row longer than 5000 is looked at where Walked stops, whatever comes behind.
 func TestUnifyOfLongRows(t *testing.T) {
-	a := atomTerm("a")
+	a, c := atomTerm("a"), atomTerm("c")
 	for _, many := range []int{2, 4999, 5000, 5001, 5002, 10000, 10001} {
 		b := rowBinds(many, impl.Term{})
-		wantUnifiedBoth(t, b, varTerm(0), a, bound{many - 1, a})
+		stop := min(many-1, 5000)
+		wantUnifiedBoth(t, b, varTerm(0), a, bound{stop, a})
+		wantUnifiedBoth(t, b, structTerm("f", varTerm(0)), structTerm("f", a), bound{stop, a})
 		after, _ := impl.Unify(b, varTerm(0), a)
 		wantFilled(t, after, varTerm(0), a)
-		wantNeverUnified(t, after, varTerm(0), atomTerm("b"))
 		wantUnifiedBoth(t, after, varTerm(0), a)
+		if many <= 5000 {
+			wantNeverUnified(t, after, varTerm(0), c)
+		} else {
+			wantUnifiedBoth(t, after, varTerm(0), c, bound{5000, c})
+		}
 	}
 }
 
-// In a ring each name stands for something already, and what stands stays.
+func TestUnifyOfLongRowsThatEndInATerm(t *testing.T) {
+	a, c := atomTerm("a"), atomTerm("c")
+	for _, many := range []int{2, 4999, 5000} {
+		wantUnifiedBoth(t, rowBinds(many, a), varTerm(0), a)
+		wantNeverUnified(t, rowBinds(many, a), varTerm(0), c)
+	}
+	for _, many := range []int{5001, 5002, 10000, 10001, 20000} {
+		b := rowBinds(many, a)
+		for _, term := range []impl.Term{a, c, intTerm(-7), structTerm("f", c), structTerm("f", varTerm(many-1))} {
+			wantUnifiedBoth(t, b, varTerm(0), term, bound{5000, term})
+		}
+		// One walk from the end of the row still comes to it.
+		wantUnifiedBoth(t, b, varTerm(many-5000), a)
+		wantNeverUnified(t, b, varTerm(many-5000), c)
+		wantNeverUnified(t, b, structTerm("f", varTerm(0), a), structTerm("f", c, c))
+	}
+	// Of two TmVars at which it stops, the greater one stands for the lesser one.
+	wantUnifiedBoth(t, rowBinds(5002, a), varTerm(0), varTerm(1), bound{5001, varTerm(5000)})
+	wantUnified(t, rowBinds(5002, a), varTerm(0), varTerm(0))
+	// The greater one is in the lesser one, when that is Filled.
+	wantNeverUnified(t, rowBinds(5002, impl.Term{}), varTerm(0), varTerm(1))
+}
+
+// A TmVar that is Walked round a ring is one that may stand for another term, like one that stands for nothing.
 func TestUnifyOfRings(t *testing.T) {
+	a, c, seven := atomTerm("a"), atomTerm("c"), intTerm(-7)
 	for _, round := range []int{1, 2, 3, 4, 5, 7, 4999, 5000, 5001} {
 		b := ringBinds(round, 2)
-		free := varTerm(round)
+		stop, free := 5000%round, varTerm(round)
 		wantUnified(t, b, varTerm(0), varTerm(0))
-		wantNeverUnified(t, b, varTerm(0), atomTerm("a"))
-		wantNeverUnified(t, b, varTerm(0), structTerm("f", free))
-		wantUnifiedBoth(t, b, free, structTerm("f", varTerm(0)), bound{round, structTerm("f", varTerm(0))})
-		if round > 1 {
-			wantNeverUnified(t, b, varTerm(0), varTerm(1))
+		for _, term := range []impl.Term{a, seven, structTerm("f", a), structTerm("f", free)} {
+			wantUnifiedBoth(t, b, varTerm(0), term, bound{stop, term})
 		}
-		wantMadeTheSame(t, b, varTerm(0), free)
-		wantMadeTheSame(t, b, structTerm("f", varTerm(0), free), structTerm("f", free, varTerm(0)))
+		wantUnifiedBoth(t, b, varTerm(0), free, bound{round, varTerm(stop)})
+		wantUnifiedBoth(t, b, free, structTerm("f", varTerm(0)), bound{round, structTerm("f", varTerm(0))})
+		wantNeverUnified(t, b, varTerm(0), structTerm("f", varTerm(0)))
+		wantNeverUnified(t, b, varTerm(0), structTerm("f", a, structTerm("g", varTerm(0))))
+		wantNeverUnified(t, b, varTerm(0), varTerm(round+2))
+		wantNeverUnified(t, b, structTerm("f", varTerm(0), free, a), structTerm("f", seven, a, c))
+		wantUnifiedBoth(t, b, structTerm("f", varTerm(0), free), structTerm("f", a, c), bound{stop, a}, bound{round, c})
+		if round <= 5000 {
+			// The first pair opens the ring, and the second one is Walked to what it ends in.
+			wantUnifiedBoth(t, b, structTerm("f", varTerm(0), varTerm(0)), structTerm("f", a, a), bound{stop, a})
+			wantNeverUnified(t, b, structTerm("f", varTerm(0), varTerm(0)), structTerm("f", a, c))
+		}
 	}
-	wantUnifiedBoth(t, ringBinds(1, 1), varTerm(0), varTerm(1), bound{1, varTerm(0)})
-	wantNeverUnified(t, bindsOf(2, bound{1, varTerm(1)}), varTerm(0), varTerm(1))
 }
 
-// wantMadeTheSame holds what Unify answers against the promise; the list may be of any kind.
+func TestUnifyTwoNamesWhereRingsAre(t *testing.T) {
+	seven := intTerm(-7)
+	itself := bindsOf(4, bound{2, varTerm(2)})
+	wantUnifiedBoth(t, itself, seven, varTerm(2), bound{2, seven})
+	wantUnifiedBoth(t, itself, varTerm(0), varTerm(2), bound{2, varTerm(0)})
+	wantUnifiedBoth(t, itself, varTerm(3), varTerm(2), bound{3, varTerm(2)})
+	wantUnified(t, itself, varTerm(2), varTerm(2))
+	wantUnifiedBoth(t, bindsOf(2, bound{1, varTerm(1)}), varTerm(0), varTerm(1), bound{1, varTerm(0)})
+	wantUnifiedBoth(t, bindsOf(2, bound{0, varTerm(0)}, bound{1, varTerm(1)}), varTerm(0), varTerm(1), bound{1, varTerm(0)})
+	// Two of one ring: in those of 2 and of 4 a TmVar is Walked to itself, in that of 3 to the second next one.
+	wantUnifiedBoth(t, ringBinds(2, 0), varTerm(0), varTerm(1))
+	wantUnifiedBoth(t, ringBinds(4, 0), varTerm(0), varTerm(1), bound{1, varTerm(0)})
+	wantUnifiedBoth(t, ringBinds(4, 0), varTerm(1), varTerm(3), bound{3, varTerm(1)})
+	wantUnifiedBoth(t, ringBinds(3, 0), varTerm(0), varTerm(2), bound{2, varTerm(1)})
+	wantUnifiedBoth(t, ringBinds(3, 0), varTerm(1), varTerm(2), bound{1, varTerm(0)})
+	// TmVars 2 and 0 are looked at, and 0 is 2 when it is Filled.
+	wantNeverUnified(t, ringBinds(3, 0), varTerm(0), varTerm(1))
+	// A row that leads into a ring.
+	wantUnifiedBoth(t, bindsOf(4, bound{3, varTerm(0)}, bound{0, varTerm(1)}, bound{1, varTerm(0)}), varTerm(3), seven, bound{1, seven})
+}
+
+// wantMadeTheSame holds what Unify answers against the promise; the list has no ring in it.
 func wantMadeTheSame(t *testing.T, b impl.Binds, x, y impl.Term) (impl.Binds, bool) {
 	t.Helper()
 	before := copyBinds(b)
@@ -680,11 +737,34 @@ func drawn(r *rand.Rand, many, deep int) impl.Term {
 	}
 }
 
-// fillByRule is the document's rule for Filled, over lists without rings; it counts what it makes.
-func fillByRule(list []impl.Term, t impl.Term, deep int, made *int) (impl.Term, bool) {
-	for t.Kind == impl.TmVar && t.Num >= 0 && t.Num < len(list) && list[t.Num].Kind != 0 {
-		t = list[t.Num]
+// nextByRule is what a TmVar of the list stands for.
+func nextByRule(list []impl.Term, t impl.Term) (impl.Term, bool) {
+	if t.Kind != impl.TmVar || t.Num < 0 || t.Num >= len(list) || list[t.Num].Kind == 0 {
+		return t, false
 	}
+	return list[t.Num], true
+}
+
+// walkByRule is the document's rule for Walked, and tells whether nothing more comes behind.
+func walkByRule(list []impl.Term, t impl.Term, most int) (impl.Term, bool) {
+	for range most {
+		next, more := nextByRule(list, t)
+		if !more {
+			return t, true
+		}
+		t = next
+	}
+	_, more := nextByRule(list, t)
+	return t, !more
+}
+
+// fillByRule is the document's rule for Filled; it counts what it makes. What has no end, in a ring, is Walked once.
+func fillByRule(list []impl.Term, t impl.Term, deep int, made *int) (impl.Term, bool) {
+	once, done := walkByRule(list, t, 5000)
+	if end, ends := walkByRule(list, once, len(list)); !done && ends {
+		once = end
+	}
+	t = once
 	*made++
 	if deep > impl.MaxDeep || *made > impl.MaxSize {
 		return impl.Term{}, false
@@ -700,17 +780,13 @@ func fillByRule(list []impl.Term, t impl.Term, deep int, made *int) (impl.Term, 
 	return impl.Term{Kind: t.Kind, Name: t.Name, Num: t.Num, Kids: kids}, true
 }
 
-// unifyByRule is the document's rule for Unify, over lists without rings; it writes into the list.
+// unifyByRule is the document's rule for Unify; it writes into the list.
 func unifyByRule(list []impl.Term, x, y impl.Term, pairs *int) bool {
 	if *pairs++; *pairs > 2000 {
 		return false
 	}
-	for x.Kind == impl.TmVar && x.Num < len(list) && list[x.Num].Kind != 0 {
-		x = list[x.Num]
-	}
-	for y.Kind == impl.TmVar && y.Num < len(list) && list[y.Num].Kind != 0 {
-		y = list[y.Num]
-	}
+	x, _ = walkByRule(list, x, 5000)
+	y, _ = walkByRule(list, y, 5000)
 	if x.Kind == impl.TmVar && y.Kind == impl.TmVar && x.Num == y.Num {
 		return true
 	}
@@ -767,12 +843,12 @@ func drawnBinds(r *rand.Rand, many int) impl.Binds {
 
 func TestFilledIsTheDocumentsRule(t *testing.T) {
 	r := rand.New(rand.NewSource(4))
-	right, wrong := 0, 0
+	right, wrong, rings := 0, 0, 0
 	for range 20000 {
 		b := drawnBinds(r, 1+r.Intn(7))
 		term := drawn(r, len(b.List)+2, 4)
 		if !ringless(b) {
-			continue
+			rings++
 		}
 		made := 0
 		if want, ok := fillByRule(b.List, term, 1, &made); ok {
@@ -783,34 +859,89 @@ func TestFilledIsTheDocumentsRule(t *testing.T) {
 			wrong++
 		}
 	}
-	if right < 1000 || wrong < 200 {
-		t.Errorf("too few are drawn: %d that are right, %d that are not", right, wrong)
+	if right < 1000 || wrong < 200 || rings < 1000 {
+		t.Errorf("too few are drawn: %d that are right, %d that are not, %d with rings", right, wrong, rings)
 	}
+}
+
+// wantUnifiedByRule holds what Unify answers against the document's rule, and tells whether it can be.
+func wantUnifiedByRule(t *testing.T, b impl.Binds, x, y impl.Term) bool {
+	t.Helper()
+	want := copyBinds(b)
+	pairs := 0
+	after, ok := impl.Unify(b, x, y)
+	canBe := unifyByRule(want.List, x, y, &pairs)
+	if !canBe {
+		want = b
+	}
+	if canBe != ok || !equalBinds(after, want) {
+		t.Fatalf("Unify(%s, %s, %s) = %s, %t; want %s, %t", shownBinds(b), shown(x), shown(y), shownBinds(after), ok, shownBinds(want), canBe)
+	}
+	return ok
 }
 
 func TestUnifyIsTheDocumentsRule(t *testing.T) {
 	r := rand.New(rand.NewSource(5))
-	can, cannot := 0, 0
+	// How many can't be and can, without rings and with them.
+	var drawnSo [2][2]int
 	for range 40000 {
 		b := drawnBinds(r, 1+r.Intn(7))
 		x, y := drawn(r, len(b.List)+1, 4), drawn(r, len(b.List)+1, 4)
-		if !ringless(b) {
+		ring, can := 1, 0
+		if ringless(b) {
+			ring = 0
 			wantMadeTheSame(t, b, x, y)
-			continue
 		}
-		want := copyBinds(b)
-		pairs := 0
-		after, ok := wantMadeTheSame(t, b, x, y)
-		if canBe := unifyByRule(want.List, x, y, &pairs); canBe != ok || ok && !equalBinds(after, want) {
-			t.Fatalf("Unify(%s, %s, %s) = %s, %t; want %s, %t", shownBinds(b), shown(x), shown(y), shownBinds(after), ok, shownBinds(want), canBe)
+		if wantUnifiedByRule(t, b, x, y) {
+			can = 1
 		}
-		if ok {
+		drawnSo[ring][can]++
+	}
+	for _, many := range []int{drawnSo[0][0], drawnSo[0][1], drawnSo[1][0], drawnSo[1][1]} {
+		if many < 1000 {
+			t.Errorf("too few are drawn: %v", drawnSo)
+		}
+	}
+}
+
+// drawnRow is a row longer than one walk; what its last numbers, and some behind it, stand for is drawn.
+func drawnRow(r *rand.Rand) impl.Binds {
+	b := rowBinds(4997+r.Intn(6), impl.Term{})
+	from := len(b.List) - 1 - r.Intn(3)
+	b.List = append(b.List, make([]impl.Term, 1+r.Intn(3))...)
+	for i := from; i < len(b.List); i++ {
+		if r.Intn(3) > 0 {
+			b.List[i] = nearRow(r, drawn(r, 8, 2), len(b.List))
+		}
+	}
+	return b
+}
+
+// nearRow is the term with some of its TmVars at the end of a list of that length, and not at its beginning.
+func nearRow(r *rand.Rand, t impl.Term, length int) impl.Term {
+	t = deepCopy(t)
+	if t.Kind == impl.TmVar && r.Intn(2) == 0 {
+		t.Num = length - t.Num
+	}
+	for i, k := range t.Kids {
+		t.Kids[i] = nearRow(r, k, length)
+	}
+	return t
+}
+
+func TestUnifyOfLongRowsIsTheDocumentsRule(t *testing.T) {
+	r := rand.New(rand.NewSource(8))
+	can, cannot := 0, 0
+	for range 400 {
+		b := drawnRow(r)
+		x, y := nearRow(r, drawn(r, 6, 3), len(b.List)), nearRow(r, drawn(r, 6, 3), len(b.List))
+		if wantUnifiedByRule(t, b, x, y) {
 			can++
 		} else {
 			cannot++
 		}
 	}
-	if can < 1000 || cannot < 1000 {
+	if can < 80 || cannot < 80 {
 		t.Errorf("too few are drawn: %d that can be unified, %d that can't", can, cannot)
 	}
 }
